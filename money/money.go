@@ -5,6 +5,7 @@ import (
 	"math/bits"
 
 	"demurrage/api"
+	"demurrage/exact"
 )
 
 // Check validates an amount.
@@ -60,11 +61,7 @@ func Total(l []int) (int, api.Errno) {
 	if e := checkAll(l...); e != api.OK {
 		return 0, e
 	}
-	high, low := wideSum(l)
-	if high != low>>63 { // the sum needs both words
-		return 0, api.ErrWide
-	}
-	return asAmount(low)
+	return exact.Of(l...).Amount()
 }
 
 // checkAll returns the error of the first number that is not an amount.
@@ -105,14 +102,4 @@ func negate(quotient, remainder, c int) (int, int) {
 		return -quotient, 0
 	}
 	return -quotient - 1, c - remainder
-}
-
-// wideSum adds amounts in two words, because MaxParts of them can exceed one word before others bring the sum back.
-func wideSum(l []int) (high, low int) {
-	for _, a := range l {
-		sum, carry := bits.Add64(uint64(low), uint64(a), 0)
-		low = int(sum)
-		high += a>>63 + int(carry)
-	}
-	return high, low
 }
